@@ -4,18 +4,9 @@ import (
 	"math"
 	"strings"
 	"testing"
-)
 
-// texts calls f with every text of the given pieces, up to a number of them.
-func texts(pieces []string, most int, f func(s string)) {
-	f("")
-	if most == 0 {
-		return
-	}
-	for _, p := range pieces {
-		texts(pieces, most-1, func(s string) { f(p + s) })
-	}
-}
+	"conch/probe"
+)
 
 // pieces are what short texts are made of: bytes, a rune of two bytes, and what elsewhere ends a line.
 func pieces() []string {
@@ -80,7 +71,7 @@ func TestOf(t *testing.T) {
 
 // 2.1: each place of each short text, as counting a byte at a time tells it.
 func TestOfPlaces(t *testing.T) {
-	texts(pieces(), 5, func(s string) {
+	probe.Texts(pieces(), 5, func(s string) {
 		for at, want := range places(s) {
 			if line, col := Of(s, at); line != want[0] || col != want[1] {
 				t.Errorf("Of(%q, %d): %d, %d, not %v", s, at, line, col, want)
@@ -91,7 +82,7 @@ func TestOfPlaces(t *testing.T) {
 
 // 2.1: a place ahead of the text is its beginning, one behind it is its end.
 func TestOfHeld(t *testing.T) {
-	texts(pieces(), 3, func(s string) {
+	probe.Texts(pieces(), 3, func(s string) {
 		l := places(s)
 		for _, at := range append(edges(), len(s)+1, len(s)+2) {
 			want := l[min(max(at, 0), len(s))]
@@ -104,7 +95,7 @@ func TestOfHeld(t *testing.T) {
 
 // 2.1: At finds a place by its line and column, and nothing by any others.
 func TestAt(t *testing.T) {
-	texts(pieces(), 4, func(s string) {
+	probe.Texts(pieces(), 4, func(s string) {
 		want := map[[2]int]int{}
 		for at, x := range places(s) {
 			want[x] = at
@@ -140,7 +131,7 @@ func TestAtNone(t *testing.T) {
 
 // 2.2: each place has one line and column that no other has, later places greater ones, and they lead back to it.
 func TestOnePlace(t *testing.T) {
-	texts(pieces(), 5, func(s string) {
+	probe.Texts(pieces(), 5, func(s string) {
 		lastLine, lastCol := 0, 0
 		for at := range len(s) + 1 {
 			line, col := Of(s, at)
@@ -184,7 +175,7 @@ func TestLong(t *testing.T) {
 
 // 2.3: no number and no text makes a call panic or run on; what is no place is told as none.
 func TestNoPanic(t *testing.T) {
-	texts(pieces(), 3, func(s string) {
+	probe.Texts(pieces(), 3, func(s string) {
 		l := places(s)
 		for _, a := range edges() {
 			Of(s, a)

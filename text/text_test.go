@@ -7,18 +7,9 @@ import (
 	"slices"
 	"strings"
 	"testing"
-)
 
-// texts calls f with every text of the given pieces, up to a number of them.
-func texts(pieces []string, most int, f func(s string)) {
-	f("")
-	if most == 0 {
-		return
-	}
-	for _, p := range pieces {
-		texts(pieces, most-1, func(s string) { f(p + s) })
-	}
-}
+	"conch/probe"
+)
 
 // edges are numbers at which telling or reading could go wrong.
 func edges() []int {
@@ -55,7 +46,7 @@ func TestNameBytes(t *testing.T) {
 func TestNamePlaces(t *testing.T) {
 	whole := regexp.MustCompile(`^[A-Za-z_][A-Za-z0-9_]*$`)
 	front := regexp.MustCompile(`^[A-Za-z_][A-Za-z0-9_]*`)
-	texts([]string{"a", "Z", "_", "0", "9", "-", "\n", "\x00", "é"}, 4, func(s string) {
+	probe.Texts([]string{"a", "Z", "_", "0", "9", "-", "\n", "\x00", "é"}, 4, func(s string) {
 		if want := whole.MatchString(s); Name(s) != want {
 			t.Errorf("Name(%q): %v", s, !want)
 		}
@@ -108,7 +99,7 @@ func TestDigits(t *testing.T) {
 // 1.1: numbers of short texts.
 func TestNumberShort(t *testing.T) {
 	digits := regexp.MustCompile(`^[0-9]+$`)
-	texts([]string{"0", "1", "9", "-", "+", " ", "_", "a", "\n", "."}, 4, func(s string) {
+	probe.Texts([]string{"0", "1", "9", "-", "+", " ", "_", "a", "\n", "."}, 4, func(s string) {
 		n, ok := Number(s)
 		want := new(big.Int)
 		wantOk := digits.MatchString(s)
@@ -176,7 +167,7 @@ func TestNumberForeign(t *testing.T) {
 
 // 1.1: lines of short texts: with the line feeds between they are the text again.
 func TestLines(t *testing.T) {
-	texts([]string{"a", "bc", "\n", "\r", "\x00", "é"}, 5, func(s string) {
+	probe.Texts([]string{"a", "bc", "\n", "\r", "\x00", "é"}, 5, func(s string) {
 		l := Lines(s)
 		want := strings.Split(s, "\n")
 		if want[len(want)-1] == "" {
@@ -227,7 +218,7 @@ func TestNumberToldAndRead(t *testing.T) {
 
 // 1.2: what Number reads Digits tells, without the noughts ahead.
 func TestNumberReadAndTold(t *testing.T) {
-	texts([]string{"0", "1", "8", "9"}, 6, func(s string) {
+	probe.Texts([]string{"0", "1", "8", "9"}, 6, func(s string) {
 		n, ok := Number(s)
 		if !ok {
 			if s != "" {
@@ -248,7 +239,7 @@ func TestNumberReadAndTold(t *testing.T) {
 // 1.3: whatever is handed in, the calls answer.
 func TestNoPanic(t *testing.T) {
 	pieces := []string{"", "\x00", "\xff", "\xc3", "é", "\n", "a", "0", "-", strings.Repeat("9", 300), strings.Repeat("a\n", 300)}
-	texts(pieces, 3, func(s string) {
+	probe.Texts(pieces, 3, func(s string) {
 		defer func() {
 			if r := recover(); r != nil {
 				t.Errorf("%q: %v", s, r)
