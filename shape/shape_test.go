@@ -11,14 +11,8 @@ import (
 // alphabet has a byte of each of a set's four numbers.
 const alphabet = "\x01a\x80\xff"
 
-// setOf tells the set of s's bytes, bit by bit, without package set.
-func setOf(s string) api.Set {
-	var a api.Set
-	for i := range len(s) {
-		a[s[i]/64] |= 1 << (s[i] % 64)
-	}
-	return a
-}
+// What several layers are tested with, by short names.
+var just, made, orUnset, setOf, odd, may = probe.Just, probe.Made, probe.OrUnset, probe.SetOf, probe.OddShapes, probe.MayBe
 
 // all is the set of all bytes but 0.
 func all() api.Set {
@@ -26,97 +20,22 @@ func all() api.Set {
 	return api.Set{full - 1, full, full, full}
 }
 
-// just is the shape of the literal s, field by field.
-func just(s string) api.Shape {
-	return api.Shape{E: s == "", Has: setOf(s), K: true, Lit: s}
-}
-
-// made is the shape of texts of s's bytes, field by field.
-func made(s string, empty bool) api.Shape {
-	return api.Shape{E: empty, Has: setOf(s)}
-}
-
-// orUnset is x, but it may be unset, too.
-func orUnset(x api.Shape) api.Shape {
-	x.U = true
-	return x
-}
-
-// bytesOf tells the alphabet's pieces.
-func bytesOf(s string) []string {
-	var l []string
-	for i := range len(s) {
-		l = append(l, s[i:i+1])
-	}
-	return l
-}
-
-// shapes are all shapes of the alphabet whose fields agree, their literals of at most two bytes.
+// shapes are those of the alphabet, and some beyond it.
 func shapes() []api.Shape {
-	var l []api.Shape
-	for bits := range 1 << len(alphabet) {
-		s := ""
-		for i := range len(alphabet) {
-			if bits>>i%2 == 1 {
-				s += alphabet[i : i+1]
-			}
-		}
-		l = append(l, made(s, false), made(s, true))
-	}
-	probe.Texts(bytesOf(alphabet), 2, func(s string) { l = append(l, just(s)) })
-	for _, x := range l {
-		l = append(l, orUnset(x))
-	}
-	return append(l, api.Shape{U: true, E: true, Has: all()}, made("abc", true), just("abc"), just(strings.Repeat("a", 64)))
-}
-
-// odd are shapes whose fields do not agree: no call of the package makes one.
-func odd() []api.Shape {
-	return []api.Shape{
-		{Lit: "a"}, {Lit: "a", U: true}, {Lit: "a", E: true}, {Lit: "a", Has: setOf("a")}, {Lit: "\x00"},
-		{Has: setOf("\x00")}, {Has: setOf("\x00a")}, {Has: setOf("\x00"), E: true}, {Has: setOf("\x00"), U: true},
-		{K: true}, {K: true, U: true}, {K: true, E: true, Has: setOf("a")}, {K: true, Has: setOf("a")},
-		{K: true, Lit: "ab", Has: setOf("ab"), E: true}, {K: true, Lit: "ab", Has: setOf("abc")},
-		{K: true, Lit: "ab", Has: setOf("a")}, {K: true, Lit: "ab"}, {K: true, Lit: "ab", E: true},
-		{K: true, Lit: "a\x00", Has: setOf("a\x00")}, {K: true, Lit: "a\x00", Has: setOf("a")},
-		{K: true, Lit: "\x00", Has: setOf("\x00")}, {K: true, Lit: "\x00"},
-		{K: true, Lit: strings.Repeat("a", 65), Has: setOf("a")},
-		{K: true, Lit: strings.Repeat("ab", 5000), Has: setOf("ab")},
-	}
-}
-
-// value is one that is asked for: not set, or set and a text.
-type value struct {
-	set bool
-	v   string
+	return append(probe.Shapes(alphabet), api.Shape{U: true, E: true, Has: all()}, made("abc", true), just("abc"), just(strings.Repeat("a", 64)))
 }
 
 // values are enough to tell any two of the shapes apart: texts one byte longer than their literals, too.
-func values() []value {
-	l := []value{{}, {true, "abc"}, {true, "abcd"}, {true, strings.Repeat("a", 64)}, {true, strings.Repeat("a", 65)}, {true, "\x00"}, {true, "\x00\x00"}, {true, "a\x00"}}
-	probe.Texts(bytesOf(alphabet), 3, func(s string) { l = append(l, value{true, s}) })
+func values() []probe.Value {
+	l := probe.Values(alphabet, 3)
+	for _, s := range []string{"abc", "abcd", strings.Repeat("a", 64), strings.Repeat("a", 65), "\x00", "\x00\x00", "a\x00"} {
+		l = append(l, probe.Value{Set: true, Text: s})
+	}
 	return l
 }
 
-// may asks for a value, byte by byte, as 4.1 says.
-func may(x api.Shape, q value) bool {
-	if !q.set {
-		return x.U
-	}
-	if x.K {
-		return x.Lit == q.v
-	}
-	for i := range len(q.v) {
-		c := q.v[i]
-		if x.Has[c/64]>>(c%64)%2 == 0 {
-			return false
-		}
-	}
-	return x.E || q.v != ""
-}
-
 // profile tells which of the values x may be.
-func profile(x api.Shape, l []value) []bool {
+func profile(x api.Shape, l []probe.Value) []bool {
 	got := make([]bool, len(l))
 	for i, q := range l {
 		got[i] = may(x, q)
@@ -125,7 +44,7 @@ func profile(x api.Shape, l []value) []bool {
 }
 
 // profiles tells it of each of the shapes.
-func profiles(xs []api.Shape, l []value) [][]bool {
+func profiles(xs []api.Shape, l []probe.Value) [][]bool {
 	var got [][]bool
 	for _, x := range xs {
 		got = append(got, profile(x, l))
@@ -215,10 +134,10 @@ func TestAnyUnset(t *testing.T) {
 		t.Errorf("Unset: %+v", got)
 	}
 	for _, q := range values() {
-		if got, want := May(Any(), q.set, q.v), !strings.Contains(q.v, "\x00"); got != want {
+		if got, want := May(Any(), q.Set, q.Text), !strings.Contains(q.Text, "\x00"); got != want {
 			t.Errorf("May of Any, %v: %v", q, got)
 		}
-		if got := May(Unset(), q.set, q.v); got == q.set {
+		if got := May(Unset(), q.Set, q.Text); got == q.Set {
 			t.Errorf("May of Unset, %v: %v", q, got)
 		}
 	}
@@ -285,7 +204,7 @@ func TestMay(t *testing.T) {
 func TestMayOfAll(t *testing.T) {
 	for _, x := range append(shapes(), odd()...) {
 		for _, q := range values() {
-			if got := May(x, q.set, q.v); got != may(x, q) {
+			if got := May(x, q.Set, q.Text); got != may(x, q) {
 				t.Errorf("May(%+v, %v): %v", x, q, got)
 			}
 		}
@@ -472,7 +391,7 @@ func TestLeq(t *testing.T) {
 
 // 4.2: Leq of every two shapes is told by the values that they may be.
 func TestLeqOfAll(t *testing.T) {
-	xs, l := append(shapes(), odd()...), append(values(), value{true, "ab"}, value{true, strings.Repeat("ab", 5000)})
+	xs, l := append(shapes(), odd()...), append(values(), probe.Value{Set: true, Text: "ab"}, probe.Value{Set: true, Text: strings.Repeat("ab", 5000)})
 	may := profiles(xs, l)
 	for i, a := range xs {
 		for j, b := range xs {
